@@ -2,7 +2,6 @@
 package sample
 
 import (
-	"bailiwick/api"
 	"bailiwick/code"
 	"bailiwick/handle"
 	"bailiwick/model"
@@ -65,54 +64,96 @@ func (g *Gen) Call(s model.State, task int) model.Call {
 	return c
 }
 
-// Instr is an instruction of a program of so many.
+// Instr is an instruction of a program of so many. Programs keep 0 in register 0, and a region of their own in register 1; registers 2 and 4 have whatever comes.
 func (g *Gen) Instr(of int) code.Instr {
-	r := func() uint8 { return uint8(g.N(api.MaxRegs)) }
-	low := func() uint8 { return uint8(g.N(5)) }
-	switch k := g.N(20); {
-	case k < 5:
-		return code.Instr{Op: code.Set, A: uint8(1 + g.N(6)), N: uint16(g.N(7))}
-	case k == 5:
-		return code.Instr{Op: code.Set, A: low(), N: uint16(257 + g.N(3))}
-	case k == 6:
-		return code.Instr{Op: code.Add + uint8(g.N(3)), A: r(), B: r(), C: r(), N: uint16(g.N(70))}
-	case k == 7:
-		return code.Instr{Op: code.Jump + uint8(g.N(2)), A: r(), N: uint16(g.N(of))}
+	region := func() uint8 { return [...]uint8{0, 1, 1, 1, 2, 2, 4, 4}[g.N(8)] }
+	switch k := g.N(24); {
+	case k < 4:
+		return code.Instr{Op: code.Set, A: 2, N: uint16(1 + g.N(8))}
+	case k < 8:
+		return code.Instr{Op: code.Set, A: 5 + uint8(g.N(2)), N: uint16(g.N(8))}
+	case k == 8:
+		return code.Instr{Op: code.Set, A: 2, N: uint16(257 + g.N(4))}
+	case k == 9:
+		return code.Instr{Op: code.Add + uint8(g.N(3)), A: 2 + uint8(g.N(2)), B: 3 + uint8(g.N(5)), C: uint8(g.N(8)), N: uint16(g.N(70))}
+	case k == 10:
+		return code.Instr{Op: code.If, A: uint8(g.N(8)), N: uint16(g.N(of))}
 	}
-	x := code.Instr{Op: code.CallBase + uint8(1+g.N(code.Calls)), A: uint8(g.N(3)), B: low(), C: low(), N: uint16(g.N(2))}
+	x := code.Instr{Op: code.CallBase + uint8(1+g.N(code.Calls)), A: 3, B: region(), C: region(), N: uint16(g.N(2))}
 	switch x.Op - code.CallBase {
 	case model.Alloc:
 		x.N = 1 << g.N(4)
 	case model.Load, model.Store:
 		x.N = uint16(1 + g.N(8))
 	case model.Exit, model.Kill:
-		if g.N(5) > 0 {
-			x.Op = code.CallBase + model.Spawn
+		if g.N(8) > 0 {
+			x.Op = code.CallBase + model.Recv
 		}
 	}
 	return x
 }
 
-// Program is a program's bytes.
-func (g *Gen) Program() string {
-	var l []code.Instr
-	n := 4 + g.N(28)
-	for range n {
-		l = append(l, g.Instr(n))
+// few are some instructions that go together, so that calls of each kind come to be done.
+func (g *Gen) few() []code.Instr {
+	set := func(n int) code.Instr { return code.Instr{Op: code.Set, A: 6, N: uint16(n)} }
+	do := func(d, b, c uint8, n int) code.Instr {
+		return code.Instr{Op: code.CallBase + d, A: 3, B: b, C: c, N: uint16(n)}
 	}
+	keep := code.Instr{Op: code.Add, A: 2, B: 4}
+	quota, to := set(g.N(6)), set(g.N(4))
+	switch g.N(9) {
+	case 0:
+		return []code.Instr{quota, do(model.New, 1, 0, 0), keep, do(model.Ref, 2, 1, 0), do(model.Deref, 2, 0, 0), do(model.Cut, 2, 0, 0)}
+	case 1:
+		return []code.Instr{quota, do(model.New, 0, 0, 0), keep, do(model.Graft, 2, 1, 0)}
+	case 2:
+		return []code.Instr{to, do(model.Lend, 1, 0, g.N(2))}
+	case 3:
+		return []code.Instr{{Op: code.Set, A: 2, N: uint16(1 + g.N(3))}, do(model.Return, 0, 2, 0)}
+	case 4:
+		return []code.Instr{quota, do(model.New, 0, 0, 0), keep, to, do(model.Send, 2, 0, 0)}
+	case 5:
+		return []code.Instr{do(model.TryRecv, 0, 0, 0), keep}
+	case 6:
+		return []code.Instr{quota, do(model.New, 0, 0, 0), keep, do(model.Freeze, 2, 0, 0), to, do(model.Share+uint8(4*g.N(2)), 2, 0, 1)}
+	case 7:
+		return []code.Instr{do(model.Drop, 2, 0, 0), set(g.N(12)), do(model.Store, 1, 0, 8), do(model.Load, 1, 0, 4)}
+	}
+	if g.N(4) > 0 {
+		return []code.Instr{to, do(model.Spawn, 0, 0, 0)}
+	}
+	return []code.Instr{to, do(model.Kill, 0, 0, 0)}
+}
+
+// body is a program that begins so, then makes a region with bytes, and then goes round.
+func (g *Gen) body(l []code.Instr) string {
+	l = append(l,
+		code.Instr{Op: code.Set, A: 6, N: uint16(2 + g.N(6))}, code.Instr{Op: code.CallBase + model.New, A: 3},
+		code.Instr{Op: code.Add, A: 1, B: 4}, code.Instr{Op: code.Set, A: 6, N: uint16(16 + g.N(24))},
+		code.Instr{Op: code.CallBase + model.Alloc, A: 3, B: 1, N: 8})
+	begin := len(l)
+	n := begin + 6 + g.N(24)
+	for len(l) < n {
+		if g.N(2) == 0 && len(l)+6 < n {
+			l = append(l, g.few()...)
+		} else {
+			l = append(l, g.Instr(n))
+		}
+	}
+	l = append(l, code.Instr{Op: code.Jump, N: uint16(begin)})
 	b, _ := code.Encode(l)
 	return b
 }
 
-// Programs is a script without picks, of so many tasks, of which the first one spawns all others, and makes a root for each.
+// Programs is a script without picks, of so many tasks, of which the first one spawns all others.
 func (g *Gen) Programs(tasks int) script.Script {
 	s := script.Script{Pages: 4 + g.N(28)}
 	for i := range tasks {
-		b := g.Program()
-		if i == 0 {
-			b = g.spawning(tasks)
+		var l []code.Instr
+		for k := 1; k < tasks && i == 0; k++ {
+			l = append(l, code.Instr{Op: code.Set, A: 6, N: uint16(k)}, code.Instr{Op: code.CallBase + model.Spawn, A: 3})
 		}
-		s.Programs = append(s.Programs, b)
+		s.Programs = append(s.Programs, g.body(l))
 	}
 	return s
 }
@@ -127,25 +168,13 @@ func (g *Gen) Script(tasks, picks int) script.Script {
 }
 
 func (g *Gen) pick(tasks int) uint8 {
-	switch g.N(60) {
+	switch g.N(100) {
 	case 0:
-		return script.Slay + uint8(g.N(tasks))
-	case 1, 2, 3, 4:
+		if g.N(3) == 0 {
+			return script.Slay + uint8(g.N(tasks))
+		}
+	case 1, 2, 3, 4, 5, 6:
 		return script.Reap
 	}
 	return uint8(g.N(tasks))
-}
-
-func (g *Gen) spawning(tasks int) string {
-	var l []code.Instr
-	for i := 1; i < tasks; i++ {
-		l = append(l, code.Instr{Op: code.Set, A: 6, N: uint16(i)}, code.Instr{Op: code.CallBase + model.Spawn})
-	}
-	l = append(l, code.Instr{Op: code.Set, A: 6, N: uint16(2 + g.N(6))}, code.Instr{Op: code.CallBase + model.New, A: 1, B: 0})
-	n := len(l) + 20
-	for len(l) < n {
-		l = append(l, g.Instr(n))
-	}
-	b, _ := code.Encode(l)
-	return b
 }
