@@ -6,6 +6,7 @@ import (
 	"slices"
 	"testing"
 
+	"bailiwick/api"
 	. "bailiwick/clock"
 	"bailiwick/handle"
 	"bailiwick/machine"
@@ -144,6 +145,11 @@ func TestHangs(t *testing.T) {
 	m, ok3 := Swap(r.l, 1)
 	if ok1 || ok2 || ok3 || h != nil || c != nil || m != nil {
 		t.Error("they do not agree")
+	}
+	odd := []machine.Event{{Task: 99, R: model.Result{E: api.ErrState}}, {Task: -1, C: model.Call{Do: model.New}, R: model.Result{E: api.ErrState}}}
+	c, ok2 = Clocks(odd)
+	if h, ok := Hangs(odd); !ok || !ok2 || !slices.Equal(c, []Clock{{}, {}}) || !h[1][0] {
+		t.Error("tasks that there are not", c)
 	}
 	h, ok1 = Hangs(nil)
 	c, ok2 = Clocks(nil)

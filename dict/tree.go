@@ -12,7 +12,7 @@ const (
 // Where a node's words stand in it.
 const (
 	keyOf = 0
-	val   = 8
+	valOf = 8
 	left  = 16
 	right = 24
 )
@@ -60,7 +60,7 @@ func (t *tree) set(at int, v uint64) { check(t.M.Set(t.R, at, v)) }
 
 func (t *tree) add(n int) { t.set(t.At+count, t.word(t.At+count)+uint64(n)) }
 
-func (t *tree) pair(at int) Pair { return Pair{t.word(at + keyOf), t.word(at + val)} }
+func (t *tree) pair(at int) Pair { return Pair{t.word(at + keyOf), t.word(at + valOf)} }
 
 // visit is where a link leads: one more node that is gone through.
 func (t *tree) visit(link uint64) int {
