@@ -125,12 +125,13 @@ func TestWrong(t *testing.T) {
 	if m, l, e := Run(script.Script{Pages: 1}); m != nil || l != nil || e != api.ErrForm {
 		t.Error(e)
 	}
-	var n *Machine
-	if n.Pick(9) != api.ErrNil || n.Now() != 0 || !reflect.DeepEqual(n.Core(), call.Core{}) || n.Waits() != nil || n.Events() != nil || n.Ready(0) || !reflect.DeepEqual(n.Task(0), task.Task{}) {
-		t.Error("nil")
-	}
-	if _, ok := n.Under(0); ok {
-		t.Error("nil")
+	for _, n := range []*Machine{nil, {}} {
+		if n.Pick(9) != api.ErrNil || n.Now() != 0 || !reflect.DeepEqual(n.Core(), call.Core{}) || n.Waits() != nil || n.Events() != nil || n.Ready(0) || !reflect.DeepEqual(n.Task(0), task.Task{}) {
+			t.Error("none")
+		}
+		if _, ok := n.Under(0); ok {
+			t.Error("none")
+		}
 	}
 	m := open(t, 4, "")
 	for b := range 256 {
