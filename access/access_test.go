@@ -74,6 +74,7 @@ func TestKinds(t *testing.T) {
 	f.O, _ = f.O.Freeze(f.T, 1, 0)
 	f.O, _ = f.O.Hold(f.T, 1, 4)
 	check(t, f, may{0, 2, Load, api.OK}, may{4, 2, Load, api.OK}, may{5, 2, Load, api.ErrAccess}, may{0, 2, Store, api.ErrAccess}, may{0, 1, Whole, api.ErrAccess}, may{0, 1, 3, api.ErrAccess})
+	check(t, f, may{-1, 2, Load, api.ErrAccess}, may{8, 2, Load, api.ErrAccess}, may{math.MinInt, 2, Load, api.ErrAccess})
 	f.O, _ = f.O.Fly(f.T, 1)
 	check(t, f, may{0, 2, Load, api.ErrAccess}, may{0, 2, Store, api.ErrAccess}, may{0, 1, Whole, api.ErrAccess})
 	n := w

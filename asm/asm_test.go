@@ -53,6 +53,7 @@ func TestParse(t *testing.T) {
 		{"jump r0 r0 r0 end\nend: halt r0 r0 r0 1", []code.Instr{{Op: code.Jump, N: 1}, {N: 1}}},
 		{"x:\n\ny: ;\nif r7 r0 r0 y\nif r7 r0 r0 0\njump r0 r0 r0 x", []code.Instr{{Op: code.If, A: 7}, {Op: code.If, A: 7}, {Op: code.Jump}}},
 		{"halt:set r0 r0 r0 1\njump r0 r0 r0 halt", []code.Instr{{Op: code.Set, N: 1}, {Op: code.Jump}}},
+		{"z: halt r7 r0 r0 0", []code.Instr{{A: 7}}}, {"az09: jump r0 r0 r0 az09", []code.Instr{{Op: code.Jump}}},
 		{"abcdefg8: new r0 r0 r0 0", []code.Instr{{Op: 17}}},
 	} {
 		l, n, e := Parse(x.s)
@@ -70,7 +71,8 @@ func TestWrong(t *testing.T) {
 		n int
 		e api.Errno
 	}{
-		{"halt r0 r0 r0", 1, api.ErrForm}, {ok + "halt r0 r0 r0 0 0", 2, api.ErrForm}, {"Halt r0 r0 r0 0", 1, api.ErrForm}, {"halt r8 r0 r0 0", 1, api.ErrForm},
+		{"halt r0 r0 r0", 1, api.ErrForm}, {"halt x0 r0 r0 0", 1, api.ErrForm}, {"halt r0 r r0 0", 1, api.ErrForm}, {"halt r0 r/ r0 0", 1, api.ErrForm}, {"halt r0 r0 r0 100000", 1, api.ErrForm}, {"halt r0 r0 r0 6553a", 1, api.ErrForm}, {"{a:", 1, api.ErrForm}, {"a{:", 1, api.ErrForm}, {"a/:", 1, api.ErrForm}, {"`:", 1, api.ErrForm},
+		{ok + "halt r0 r0 r0 0 0", 2, api.ErrForm}, {"Halt r0 r0 r0 0", 1, api.ErrForm}, {"halt r8 r0 r0 0", 1, api.ErrForm},
 		{"halt 0 r0 r0 0", 1, api.ErrForm}, {"halt r00 r0 r0 0", 1, api.ErrForm}, {"set r0 r0 r0 65536", 1, api.ErrForm}, {"set r0 r0 r0 01", 1, api.ErrForm}, {"set r0 r0 r0 00", 1, api.ErrForm},
 		{"set r0 r0 r0 -1", 1, api.ErrForm}, {"set r0 r0 r0 x", 1, api.ErrForm}, {"x: set r0 r0 r0 x", 1, api.ErrForm}, {"set r0 r0 r0 99999999999999999999", 1, api.ErrForm},
 		{":", 1, api.ErrForm}, {"1a:", 1, api.ErrForm}, {"A:", 1, api.ErrForm}, {"abcdefghi:", 1, api.ErrForm}, {"a b:", 1, api.ErrForm}, {"a_:", 1, api.ErrForm},

@@ -90,6 +90,9 @@ func TestLimits(t *testing.T) {
 	if n, _ := w.b[2].Limit(2); n != 5 || w.b[2].Hand().Task() != 2 {
 		t.Error("shared", n)
 	}
+	if w.b[0].Set(3, 64) != api.OK || w.b[0].Set(0, 0) != api.OK {
+		t.Error("edges")
+	}
 	for _, x := range [][2]int{{-1, 0}, {8, 0}, {math.MaxInt, 0}, {0, -1}, {0, 65}, {0, math.MinInt}} {
 		if e := w.b[0].Set(x[0], x[1]); e != api.ErrArg {
 			t.Error(x, e)
@@ -109,8 +112,8 @@ func TestLimits(t *testing.T) {
 	}
 	var n *Bank
 	_, e1 := n.As(99)
-	_, e2 := n.Limit(99)
-	if e1 != api.ErrNil || e2 != api.ErrNil || n.Set(99, 99) != api.ErrNil || n.Hand() != nil || n.Do(model.Call{}) != (model.Result{E: api.ErrNil}) {
+	none, e2 := n.Limit(99)
+	if none != 0 || e1 != api.ErrNil || e2 != api.ErrNil || n.Set(99, 99) != api.ErrNil || n.Hand() != nil || n.Do(model.Call{}) != (model.Result{E: api.ErrNil}) {
 		t.Error("nil")
 	}
 }
@@ -195,6 +198,7 @@ func TestDeath(t *testing.T) {
 	w.b[0].Set(2, 0)
 	w.want(2, model.Call{Do: model.Kill, A: 1}, api.ErrFull)
 	w.want(2, model.Call{Do: model.Kill, A: 5}, api.ErrArg)
+	w.want(2, model.Call{Do: model.Send, A: 1}, api.OK)
 	w.want(1, model.Call{Do: model.Exit}, api.ErrFull)
 	w.b[0].Set(0, 5)
 	w.want(1, model.Call{Do: model.Exit}, api.ErrFull)

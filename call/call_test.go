@@ -86,6 +86,19 @@ func TestEnds(t *testing.T) {
 	}
 	want(t, x, model.Call{Do: model.Alloc, R: 1, A: 30, B: 1}, model.Result{}, 5)
 	want(t, x, model.Call{Do: model.Load, R: 1, A: 0, B: 1}, model.Result{}, 3)
+	x.Reap()
+	x.Reap()
+	done(t, x, 0, model.Call{Do: model.New, A: 9})
+	want(t, x, model.Call{Do: model.Reset, R: 1}, model.Result{}, 3)
+	x.Reap()
+	for range 2 {
+		want(t, x, model.Call{Do: model.Alloc, R: 2, A: 64, B: 1}, model.Result{}, 6)
+		want(t, x, model.Call{Do: model.Load, R: 2, A: 33, B: 8}, model.Result{}, 3)
+		want(t, x, model.Call{Do: model.Store, R: 2, A: 33, B: 8, V: 99}, model.Result{}, 3)
+		want(t, x, model.Call{Do: model.Reset, R: 2}, model.Result{}, 3)
+		x.Reap()
+		x.Reap()
+	}
 	want(t, x, model.Call{Do: model.Send}, model.Result{}, 2)
 	want(t, x, model.Call{Do: model.Recv}, model.Result{}, 2)
 }

@@ -134,6 +134,16 @@ func TestHangs(t *testing.T) {
 	if !ok || !slices.Equal(m, []machine.Event{r.l[0], r.l[2], r.l[1], r.l[3]}) || r.l[1].Task != 0 {
 		t.Error(m)
 	}
+	if m, ok := Swap([]machine.Event{r.l[0], r.l[1], r.l[2]}[:], 1); !ok || len(m) != 3 {
+		t.Error(m)
+	}
+	first := &row{s: model.Begin()}
+	first.do(0, model.Call{Do: model.Spawn, A: 1})
+	first.do(1, model.Call{Do: model.Close})
+	refused := []machine.Event{{Task: 0, C: model.Call{Do: model.Close}}, first.l[0], first.l[1]}
+	if m, ok := Swap(refused, 1); ok || m != nil {
+		t.Error("they meet")
+	}
 	for _, i := range []int{-1, 0, 2, 3, 4, math.MaxInt, math.MinInt} {
 		if m, ok := Swap(r.l, i); ok || m != nil {
 			t.Error(i)

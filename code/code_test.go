@@ -54,6 +54,16 @@ func TestMay(t *testing.T) {
 	}
 }
 
+// P13.1: the numbers of operations, and the longest program.
+func TestNumbers(t *testing.T) {
+	if Halt != 0 || Set != 1 || Add != 2 || Sub != 3 || Shift != 4 || Jump != 5 || If != 6 || CallBase != 16 || Calls != 22 {
+		t.Error("numbers")
+	}
+	if l, e := Decode(string(make([]byte, 6*api.MaxCode))); len(l) != api.MaxCode || e != api.OK {
+		t.Error(len(l), e)
+	}
+}
+
 // P13.2
 func TestAnswer(t *testing.T) {
 	g := rand.New(rand.NewSource(13))

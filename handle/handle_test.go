@@ -86,6 +86,13 @@ func TestAged(t *testing.T) {
 	}
 }
 
+// Limits
+func TestLast(t *testing.T) {
+	if Last != 8388607 {
+		t.Error(Last)
+	}
+}
+
 // P3.4
 func TestNeverTwice(t *testing.T) {
 	g := rand.New(rand.NewSource(3))

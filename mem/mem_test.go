@@ -148,6 +148,21 @@ func TestWrong(t *testing.T) {
 	}
 }
 
+// P35.1: numbers that may just be.
+func TestEdges(t *testing.T) {
+	m := open(t, 4)
+	root(t, m, 4)
+	if _, e := m.Word(1, math.MaxUint32); e != api.ErrRange {
+		t.Error(e)
+	}
+	if _, e := m.Alloc(1, math.MaxUint32, math.MaxUint32); e != api.ErrArg {
+		t.Error(e)
+	}
+	if b, e := m.Bytes(1, 0, 0); b != nil || e != api.OK {
+		t.Error(e)
+	}
+}
+
 // P35.3, P35.5: what was put is read, and nothing else is another one.
 func TestBytes(t *testing.T) {
 	m := open(t, 64)

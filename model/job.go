@@ -135,10 +135,7 @@ func (j *job) share() {
 	j.hold(int(j.c.A))
 }
 
-func (j *job) drop() {
-	j.held(j.c.R)
-	j.dropped(j.c.R, j.task)
-}
+func (j *job) drop() { j.dropped(j.c.R, j.task) }
 
 func (j *job) lend() {
 	must(j.livesA() && j.c.B <= 1, api.ErrArg)

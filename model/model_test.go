@@ -149,6 +149,49 @@ func TestRegions(t *testing.T) {
 		t.Error(back, r)
 	}
 	w.want(1, Call{Do: Reset, R: 2}, api.ErrAccess)
+	if w.s.Needs(0, c) != 1 || w.s.Needs(1, c) != 0 {
+		t.Error("needs")
+	}
+	if r, _ := w.run(1, c, runs.Run{At: 0, N: 1}); r.E != api.ErrAccess {
+		t.Error(r)
+	}
+	w.want(1, Call{Do: Deref, R: 2, A: 0}, api.ErrAccess)
+}
+
+// P12.1: numbers of calls.
+func TestNumbers(t *testing.T) {
+	if New != 1 || Alloc != 2 || Load != 3 || Store != 4 || Recv != 15 || Ref != 18 || Spawn != 22 {
+		t.Error("numbers")
+	}
+}
+
+// P12.1: a cell names what its task may load.
+func TestRef(t *testing.T) {
+	w := begin(t)
+	w.ok(0, Call{Do: New, A: 8})
+	w.ok(0, Call{Do: New, R: 1, A: 8})
+	k := w.ok(0, Call{Do: Lend, R: 1, A: 1, B: 1}).W
+	w.want(0, Call{Do: Ref, R: 2, A: 0, S: 1}, api.ErrAccess)
+	w.want(0, Call{Do: Ref, R: 2, A: 0, S: 9}, api.ErrStale)
+	w.ok(0, Call{Do: Ref, R: 2, A: 0})
+	w.ok(1, Call{Do: Return, S: k})
+	w.ok(0, Call{Do: Ref, R: 2, A: 0, S: 1})
+	w.ok(0, Call{Do: Ref, R: 2, A: 0})
+	w.want(0, Call{Do: Deref, R: 2, A: 0}, api.ErrEmpty)
+}
+
+// P12.1: a box with words, and with shares, is drained.
+func TestDrained(t *testing.T) {
+	w := begin(t)
+	w.ok(0, Call{Do: New, A: 8})
+	w.ok(0, Call{Do: Freeze, R: 1})
+	w.ok(0, Call{Do: Send, A: 1, V: 3})
+	w.ok(0, Call{Do: Send, A: 1, V: 3, B: 1})
+	w.ok(0, Call{Do: Send, R: 1, A: 1, B: 1})
+	w.ok(1, Call{Do: Exit})
+	if w.kind(1) != (own.Own{Kind: own.Frozen, Holders: 1}) || w.s.Alive[1] {
+		t.Error(w.kind(1))
+	}
 }
 
 // P12.3
@@ -243,6 +286,7 @@ func TestLent(t *testing.T) {
 	w.ok(0, Call{Do: New, A: 8})
 	w.want(0, Call{Do: Lend, R: 9, A: 1, S: 9}, api.ErrStale)
 	w.want(0, Call{Do: Lend, R: 1, A: 1, S: 9}, api.ErrStale)
+	w.want(0, Call{Do: Lend, R: 9, A: 1}, api.ErrStale)
 	w.want(0, Call{Do: Lend, R: 1, A: 0}, api.ErrArg)
 	w.want(1, Call{Do: Lend, R: 1, A: 2}, api.ErrAccess)
 	a := w.ok(0, Call{Do: Lend, R: 1, A: 1, B: 1}).W

@@ -46,6 +46,10 @@ func TestExample(t *testing.T) {
 	if want := "BWPK\x01\x00\x02\x00\x00" + zeros; b != want+sum(want) || e != api.OK {
 		t.Errorf("%x %v", b, e)
 	}
+	n := journal.Sum(b[:len(b)-4])
+	if b[len(b)-4:] != string([]byte{byte(n), byte(n >> 8), byte(n >> 16), byte(n >> 24)}) {
+		t.Errorf("the lowest first: %x %x", n, b)
+	}
 	if i, e := Tell(b); i != (Info{1, 0, 0}) || e != api.OK {
 		t.Error(i, e)
 	}

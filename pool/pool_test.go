@@ -119,7 +119,10 @@ func TestLooks(t *testing.T) {
 	if n.Pages() != 0 || n.Free().Count() != 0 {
 		t.Error("nil looks")
 	}
-	_, e1 := n.Claim(0)
+	at, e1 := n.Claim(0)
+	if at != 0 {
+		t.Error(at)
+	}
 	_, e2 := n.Read(-1)
 	for _, e := range []api.Errno{e1, e2, n.Clear(-1), n.Back(-1), n.Write(-1, 0)} {
 		if e != api.ErrNil {

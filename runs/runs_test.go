@@ -118,3 +118,21 @@ func slow(in [api.MaxPages]bool) []Run {
 	}
 	return l
 }
+
+// P1.2, P1.3: the first page, the last one, and all.
+func TestEnds(t *testing.T) {
+	all := Of(64)
+	for _, x := range []Run{{0, 1}, {63, 1}, {0, 64}, {1, 63}, {62, 2}} {
+		r, ok := all.Take(x.At, x.N)
+		back, is := r.Give(x.At, x.N)
+		if !ok || r.Count() != 64-x.N || r.Has(x.At) || r.Has(x.At+x.N-1) || !is || back != all {
+			t.Error(x, r.All())
+		}
+		if at, ok := all.Find(x.N); at != 0 || !ok {
+			t.Error(x, at)
+		}
+	}
+	if r, ok := (Runs{}).Give(0, 64); !ok || r != all || r.Mask() != math.MaxUint64 {
+		t.Error(r.All())
+	}
+}

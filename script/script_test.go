@@ -52,6 +52,19 @@ func TestMay(t *testing.T) {
 	}
 }
 
+// P18.1: nothing behind the programs.
+func TestNoPicks(t *testing.T) {
+	if s, e := Decode("\x01\x01\x00"); e != api.OK || s.Pages != 1 || len(s.Programs) != 1 || len(s.Picks) != 0 {
+		t.Error(s, e)
+	}
+	if s, e := Decode("\x40\x02\x00\x01" + halt); e != api.OK || s.Pages != 64 || s.Programs[1] != halt {
+		t.Error(s, e)
+	}
+	if Reap != 8 || Slay != 16 {
+		t.Error("numbers")
+	}
+}
+
 // P18.2
 func TestAnswer(t *testing.T) {
 	g := rand.New(rand.NewSource(18))

@@ -79,8 +79,11 @@ func TestWrong(t *testing.T) {
 		}
 	}
 	for _, q := range []int{-1, 65, math.MaxInt, math.MinInt} {
-		_, _, e := x.New(0, q)
+		_, h, e := x.New(0, q)
 		want(t, "new", e, api.ErrArg)
+		if h != 0 {
+			t.Error(h)
+		}
 		_, e = x.Set(1, Region{Quota: q})
 		want(t, "set", e, api.ErrArg)
 	}

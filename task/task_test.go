@@ -98,6 +98,12 @@ func TestCalls(t *testing.T) {
 
 // R1: tasks that were made by hand.
 func TestWrong(t *testing.T) {
+	if _, calls := (Task{Code: []code.Instr{{Op: code.CallBase}}}).Wants(); calls {
+		t.Error("no call")
+	}
+	if x := (Task{Code: []code.Instr{{Op: code.Add, A: 1, B: 8, C: 9}}}).Step(); x.Regs != [8]uint64{} || x.Next != 1 {
+		t.Error(x)
+	}
 	for _, x := range []Task{{Next: -1}, {Next: math.MaxInt}, {Next: math.MinInt}, {Code: []code.Instr{{Op: 9}}}, {Code: []code.Instr{{Op: 255, A: 255, B: 255, C: 255}}}, {Code: []code.Instr{{Op: code.Add, A: 200, B: 100, C: 8}}}, {Code: []code.Instr{{Op: 17, A: 200, B: 100, C: 8}}}, {Code: []code.Instr{{Op: code.Jump, N: 9}}}} {
 		x.Wants()
 		x.Step().Step().Takes(model.Result{}).Wants()

@@ -84,7 +84,7 @@ func TestMake(t *testing.T) {
 		up    handle.Handle
 		quota int
 		e     api.Errno
-	}{{nil, 0, -1, api.ErrNil}, {m, 9, -1, api.ErrArg}, {m, 9, math.MaxUint32 + 1, api.ErrArg}, {m, 0, math.MaxUint32, api.ErrArg}, {m, 0, 65, api.ErrArg}, {m, 9, 4, api.ErrStale}, {m, 0, 3, api.ErrMem}} {
+	}{{nil, 0, -1, api.ErrNil}, {m, 9, -1, api.ErrArg}, {m, 9, math.MaxUint32 + 1, api.ErrArg}, {m, 0, math.MaxUint32, api.ErrArg}, {m, 0, 65, api.ErrArg}, {m, 9, 4, api.ErrStale}, {m, 0, 3, api.ErrMem}, {m, 0, 0, api.ErrMem}} {
 		v, e := Make(x.m, x.up, x.quota)
 		if v != (Vec{}) || e != x.e || len(m.Core().S.T.All()) != 0 {
 			t.Error(x, e)
@@ -108,6 +108,16 @@ func TestMake(t *testing.T) {
 // P38.1 to P38.4: what is refused.
 func TestWrong(t *testing.T) {
 	v := made(t, 64, 64)
+	v.Push(8)
+	if e := v.Set(0, 9); e != api.OK {
+		t.Error(e)
+	}
+	if x, e := v.Get(0); x != 9 || e != api.OK {
+		t.Error(x, e)
+	}
+	if x, e := v.Pop(); x != 9 || e != api.OK {
+		t.Error(x, e)
+	}
 	if x, e := v.Pop(); x != 0 || e != api.ErrEmpty {
 		t.Error(x, e)
 	}
