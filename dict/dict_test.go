@@ -51,6 +51,9 @@ func has(t *testing.T, d Dict, want ...Pair) {
 // P37.1, P37.2, P37.3, and the document's example.
 func TestExample(t *testing.T) {
 	f := uint64(Factor)
+	if Head != 24 || Node != 32 || MaxNodes != 64 {
+		t.Error("numbers")
+	}
 	if Rank(0) != 0 || Rank(1) != Factor || Rank(1<<33) != uint64(1<<33+1)*f {
 		t.Error(Rank(1 << 33))
 	}
@@ -143,16 +146,21 @@ func TestWrong(t *testing.T) {
 	for _, x := range []struct {
 		d Dict
 		e api.Errno
-	}{{d, api.ErrStale}, {n, api.ErrNil}, {Dict{m, 9, -1}, api.ErrArg}} {
-		_, e1 := x.d.Len()
-		_, _, e2 := x.d.Get(1)
-		_, e3 := x.d.Put(1, 1)
-		_, e4 := x.d.Del(1)
+	}{{d, api.ErrStale}, {n, api.ErrNil}, {Dict{m, 9, 8}, api.ErrStale}, {Dict{m, 9, -100}, api.ErrArg}} {
+		n, e1 := x.d.Len()
+		v, ok, e2 := x.d.Get(1)
+		had, e3 := x.d.Put(1, 1)
+		was, e4 := x.d.Del(1)
 		l, e5 := x.d.All()
-		_, _, e6 := x.d.From(1)
+		p, is, e6 := x.d.From(1)
 		h, e7 := x.d.High()
-		if !slices.Equal([]api.Errno{e1, e2, e3, e4, e5, e6, e7}, slices.Repeat([]api.Errno{x.e}, 7)) && x.e != api.ErrArg || l != nil || h != 0 || e != api.ErrNil {
-			t.Error(x, e1, e2, e3, e4, e5, e6, e7)
+		for _, f := range []api.Errno{e1, e2, e3, e4, e5, e6, e7} {
+			if f != x.e {
+				t.Error(x, f)
+			}
+		}
+		if n != 0 || v != 0 || ok || had || was || l != nil || p != (Pair{}) || is || h != 0 || e != api.ErrNil {
+			t.Error(x, "beside an error")
 		}
 	}
 }

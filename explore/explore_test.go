@@ -84,6 +84,48 @@ func TestWrong(t *testing.T) {
 	}
 }
 
+// can is what can be picked of a machine.
+func can(m *machine.Machine) []uint8 {
+	var l []uint8
+	for b := range uint8(8) {
+		if m.Ready(int(b)) {
+			l = append(l, b)
+		}
+	}
+	if len(m.Core().Queue) > 0 {
+		l = append(l, script.Reap)
+	}
+	return l
+}
+
+// P33.2: walks with nodes of all kinds.
+func TestKinds(t *testing.T) {
+	s := of([]code.Instr{do(model.Recv, 0, 0), {Op: code.Jump}})
+	w, _ := All(s, 9, 9)
+	if q, st, on := w.Kinds(s); q != 0 || st != 1 || on != len(w.Nodes)-1 {
+		t.Error(q, st, on)
+	}
+	s = of([]code.Instr{set(6, 1), do(model.Spawn, 0, 0), do(model.Recv, 0, 0)}, []code.Instr{set(6, 0), set(6, 0), do(model.Kill, 0, 0), do(model.Recv, 0, 0)})
+	w, _ = All(s, 30, 500)
+	q, st, on := w.Kinds(s)
+	stuck, ends := 0, 0
+	for i, n := range w.Nodes {
+		m := at(script.Script{Pages: s.Pages, Programs: s.Programs}, n.Way)
+		if n.Ends != (len(can(m)) == 0) {
+			t.Error("ends", i)
+		}
+		if n.Ends {
+			ends++
+		}
+		if len(m.Waits()) > 0 && n.Ends {
+			stuck++
+		}
+	}
+	if q != ends-stuck || st != stuck || on != len(w.Nodes)-ends || st == 0 || w.Cut {
+		t.Error(q, st, on, stuck, ends)
+	}
+}
+
 // P33.3, P33.4, P6 and P7 of the whole: two tasks that lend, reset and send.
 func TestWalks(t *testing.T) {
 	scripts := []script.Script{
@@ -114,14 +156,18 @@ func TestWalks(t *testing.T) {
 			m, _ := machine.New(script.Script{Pages: s.Pages, Programs: s.Programs})
 			i := 0
 			for range 18 {
-				l := slices.Collect(picks(m))
+				l := can(m)
 				if len(l) != len(w.Nodes[i].Steps) {
 					t.Fatal("steps", i, l)
 				}
 				if len(l) == 0 {
 					break
 				}
-				x := w.Nodes[i].Steps[g.N(len(l))]
+				k := g.N(len(l))
+				x := w.Nodes[i].Steps[k]
+				if x.Pick != l[k] {
+					t.Fatal("in order", i, l)
+				}
 				if m.Pick(x.Pick) != api.OK {
 					t.Fatal("pick")
 				}

@@ -98,6 +98,38 @@ func TestBytes(t *testing.T) {
 	words(33, 49, 2, 65, 49, 13, 0, 11, 0, 12)
 }
 
+// P36.2: a list that becomes empty, and one whose head is not at 0.
+func TestEmptied(t *testing.T) {
+	m, r := region(t, 9)
+	made(t, m, r)
+	l := made(t, m, r)
+	for range 3 {
+		l.Front(1)
+		l.Back(2)
+		has(t, l, 1, 2)
+		l.Pop()
+		l.Pop()
+		has(t, l)
+		l.Back(3)
+		l.Front(4)
+		l.Back(5)
+		has(t, l, 4, 3, 5)
+		l.Turn()
+		l.Back(6)
+		has(t, l, 5, 3, 4, 6)
+		for range 4 {
+			l.Pop()
+		}
+		if v, e := l.Pop(); v != 0 || e != api.ErrEmpty {
+			t.Error(v, e)
+		}
+		has(t, l)
+	}
+	if x, _ := m.Core().S.T.Get(r); x.E.Len != 64+4*16 {
+		t.Error(x.E.Len)
+	}
+}
+
 // P36.1, P36.2: what is refused.
 func TestWrong(t *testing.T) {
 	m, r := region(t, 2)

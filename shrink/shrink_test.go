@@ -141,3 +141,95 @@ func TestLeast(t *testing.T) {
 		}
 	}
 }
+
+// slow shrinks as the chapter tells it, word by word.
+type slow struct {
+	s     script.Script
+	w     Want
+	tries int
+	made  int
+}
+
+// less makes a script the one that is left, if it shows what is wanted; its second answer tells that no try was left.
+func (x *slow) less(s script.Script) (bool, bool) {
+	if x.made == x.tries {
+		return false, true
+	}
+	x.made++
+	is, _ := Shows(s, x.w)
+	if is {
+		x.s = s
+	}
+	return is, false
+}
+
+func (x *slow) all() {
+	for {
+		some := false
+		n := len(x.s.Picks)/2 + len(x.s.Picks)%2
+		if n < 1 {
+			n = 1
+		}
+		for {
+			for at := 0; at < len(x.s.Picks); {
+				end := at + n
+				if end > len(x.s.Picks) {
+					end = len(x.s.Picks)
+				}
+				gone, enough := x.less(script.Script{Pages: x.s.Pages, Programs: x.s.Programs, Picks: append(slices.Clone(x.s.Picks[:at]), x.s.Picks[end:]...)})
+				if enough {
+					return
+				}
+				if gone {
+					some = true
+				} else {
+					at += n
+				}
+			}
+			if n == 1 {
+				break
+			}
+			n /= 2
+		}
+		for i := range x.s.Programs {
+			if x.s.Programs[i] == "" {
+				continue
+			}
+			l := slices.Clone(x.s.Programs)
+			l[i] = ""
+			gone, enough := x.less(script.Script{Pages: x.s.Pages, Programs: l, Picks: x.s.Picks})
+			if enough {
+				return
+			}
+			some = some || gone
+		}
+		if !some {
+			return
+		}
+	}
+}
+
+// P34.2: try by try.
+func TestTries(t *testing.T) {
+	shown := 0
+	for seed := range 40 {
+		s := sample.New(seed).Script(2+seed%3, 20+seed)
+		for _, w := range []Want{{Do: model.New}, {Do: model.Spawn}, {Do: model.Alloc}, {Do: model.Store}, {Do: model.Recv}, {Stuck: true}} {
+			if is, _ := Shows(s, w); !is {
+				continue
+			}
+			shown++
+			for _, tries := range []int{0, 1, 7, 30, 31, 32, 33, 60, MaxTries} {
+				x := &slow{s: s, w: w, tries: tries}
+				x.all()
+				l, n, e := Shrink(s, w, tries)
+				if e != api.OK || n != x.made || !slices.Equal(l.Picks, x.s.Picks) || !slices.Equal(l.Programs, x.s.Programs) {
+					t.Fatal(seed, w, tries, n, x.made, l.Picks, x.s.Picks)
+				}
+			}
+		}
+	}
+	if shown < 40 {
+		t.Error("too few", shown)
+	}
+}
