@@ -138,6 +138,18 @@ func TestBetween(t *testing.T) {
 	}
 }
 
+// R3: cores that were copied do not share their queues.
+func TestCopied(t *testing.T) {
+	x := open(t, 8)
+	x.Queue = make([]int, 0, 8)
+	y, z := *x, *x
+	y.Cut(Call{Run: runs.Run{At: 1, N: 2}})
+	z.Cut(Call{Run: runs.Run{At: 4, N: 1}})
+	if !slices.Equal(y.Queue, []int{1, 2}) || !slices.Equal(z.Queue, []int{4}) || len(x.Queue) != 0 {
+		t.Error(y.Queue, z.Queue)
+	}
+}
+
 // R1: nil cores, and those without a pool.
 func TestNil(t *testing.T) {
 	var n *Core
