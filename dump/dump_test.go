@@ -59,6 +59,7 @@ func TestState(t *testing.T) {
 	do(0, model.Call{Do: model.Delete, R: 4}, runs.Run{})
 	do(0, model.Call{Do: model.Send, R: 3, A: 1, B: 1, V: 1 << 63}, runs.Run{})
 	do(0, model.Call{Do: model.Send, A: 1, V: 6}, runs.Run{})
+	do(1, model.Call{Do: model.Send, A: 1, B: 1, V: 8}, runs.Run{})
 	do(1, model.Call{Do: model.Close}, runs.Run{})
 	d := State(s)
 	lines(t, d,
@@ -67,7 +68,7 @@ func TestState(t *testing.T) {
 		"region 3 up 0 quota 0 used 0 runs - cells 0,0,0,0,0,0,0,0 own 3 task 0 holders 3",
 		"token 1 region 2 by 0 to 1 mutable yes above 0", "token 2 region 1 by 0 to 1 mutable no above 0", "token 3 region 2 by 1 to 0 mutable no above 1",
 		"next tokens 4,5,6,7,8,9,10,11,12,13,14,15,16", "life 1 alive yes born yes",
-		"box 1 closed yes from 0 word 9223372036854775808 region 3 share yes from 0 word 6 region 0 share no")
+		"box 1 closed yes from 0 word 9223372036854775808 region 3 share yes from 0 word 6 region 0 share no from 1 word 8 region 0 share no")
 	if !strings.Contains(d, "next table 260,5,6,") || strings.Index(d, "region 3") > strings.Index(d, "next table") || strings.Index(d, "token 3") > strings.Index(d, "next tokens") {
 		t.Error(d)
 	}

@@ -159,8 +159,8 @@ func (j *job) giveBack() {
 
 func (j *job) send() {
 	must(j.livesA() && j.c.B <= 1, api.ErrArg)
-	share := j.c.B == 1
-	if j.c.R != 0 && share {
+	share := j.c.R != 0 && j.c.B == 1 // of a word alone nothing is a share
+	if share {
 		j.held(j.c.R)
 	} else if j.c.R != 0 {
 		j.may(j.c.R, access.Whole)

@@ -356,6 +356,30 @@ func TestMail(t *testing.T) {
 	w.want(2, Call{Do: Recv}, api.ErrClosed)
 }
 
+// P12.1: a message with which no tree goes along has no share, whatever B is.
+func TestSendWordAlone(t *testing.T) {
+	for b := range uint32(2) {
+		w := begin(t)
+		if r := w.ok(0, Call{Do: Send, A: 1, B: b, V: 7}); r != (Result{}) {
+			t.Error(b, r)
+		}
+		if l := w.s.Boxes[1].All(); !slices.Equal(l, []mail.Message{{Word: 7}}) {
+			t.Error(b, l)
+		}
+		if r := w.ok(1, Call{Do: TryRecv}); r != (Result{V: 7}) {
+			t.Error(b, r)
+		}
+		w.want(0, Call{Do: Send, A: 1, B: b + 2}, api.ErrArg)
+	}
+	w := begin(t)
+	w.ok(0, Call{Do: New})
+	w.ok(0, Call{Do: Freeze, R: 1})
+	w.ok(0, Call{Do: Send, R: 1, A: 1, B: 1})
+	if l := w.s.Boxes[1].All(); !slices.Equal(l, []mail.Message{{Region: 1, Share: true}}) {
+		t.Error("a share", l)
+	}
+}
+
 // P12.1: a task dies.
 func TestDeath(t *testing.T) {
 	w := begin(t)
