@@ -207,7 +207,13 @@ func TestPlace(t *testing.T) {
 	for _, x := range []struct {
 		c Call
 		e api.Errno
-	}{{Call{Do: New, R: 9}, api.ErrArg}, {Call{Do: Load, R: 9}, api.ErrStale}, {Call{Do: Store, R: 1, A: 90}, api.ErrArg}, {Call{Do: Store, R: 1, B: 9}, api.ErrArg}, {Call{Do: Store, R: 1, A: 33, B: 8}, api.ErrRange}} {
+	}{
+		{Call{}, api.ErrStale}, {Call{Do: New, R: 9}, api.ErrStale}, {Call{Do: Recv}, api.ErrStale}, {Call{Do: 200, R: 33}, api.ErrStale},
+		{Call{Do: Load, R: 9}, api.ErrStale}, {Call{Do: Store, R: 9, B: 9}, api.ErrStale}, {Call{Do: Load, R: 9, A: 90, B: 8}, api.ErrStale}, {Call{Do: Load, R: 257, B: 1}, api.ErrStale},
+		{Call{R: 1, B: 1}, api.ErrArg}, {Call{Do: New, R: 1}, api.ErrArg}, {Call{Do: Alloc, R: 1, A: 90, B: 8}, api.ErrArg}, {Call{Do: 200, R: 1, B: 1}, api.ErrArg},
+		{Call{Do: Store, R: 1, A: 90}, api.ErrArg}, {Call{Do: Store, R: 1, B: 9}, api.ErrArg}, {Call{Do: Load, R: 1, A: 90, B: math.MaxUint32}, api.ErrArg},
+		{Call{Do: Store, R: 1, A: 33, B: 8}, api.ErrRange}, {Call{Do: Load, R: 1, A: math.MaxUint32, B: 1}, api.ErrRange},
+	} {
 		if l, e := w.s.Place(x.c); l != nil || e != x.e {
 			t.Error(x, l, e)
 		}
