@@ -41,6 +41,7 @@ func TestDiff(t *testing.T) {
 
 // P31.2, and the document's example.
 func TestEffects(t *testing.T) {
+	const region = "region 1 up 0 quota 4 used 0 runs - cells 0,0,0,0,0,0,0,0 "
 	root := machine.Event{C: model.Call{Do: model.New, A: 4}, R: model.Result{W: 1}}
 	wrong := machine.Event{C: model.Call{Do: model.New, A: 99}, R: model.Result{E: api.ErrArg}}
 	full := machine.Event{C: model.Call{Do: model.Alloc, R: 1, A: 4, B: 4}, R: model.Result{E: api.ErrMem}}
@@ -51,8 +52,12 @@ func TestEffects(t *testing.T) {
 	if c := l[0][0]; c.Key != "next table" || c.Was == "" || c.Now == "" {
 		t.Error(c)
 	}
-	if c := l[0][1]; c != (Change{"region 1", "", "region 1 up 0 quota 4 used 0 runs - cells 0,0,0,0,0,0,0,0 own 1 task 0 holders 0"}) {
+	if c := l[0][1]; c != (Change{"region 1", "", region + "own 1 0 0"}) {
 		t.Error(c)
+	}
+	frozen := machine.Event{C: model.Call{Do: model.Freeze, R: 1}}
+	if l, ok := Effects([]machine.Event{root, frozen}); !ok || !slices.Equal(l[1], []Change{{"region 1", region + "own 1 0 0", region + "own 3 0 1"}}) {
+		t.Error(l)
 	}
 	root.R.W = 2
 	if l, ok := Effects([]machine.Event{root}); ok || l != nil {

@@ -63,15 +63,37 @@ func TestState(t *testing.T) {
 	do(1, model.Call{Do: model.Close}, runs.Run{})
 	d := State(s)
 	lines(t, d,
-		"region 1 up 0 quota 9 used 0 runs - cells 0,0,0,0,0,0,0,0 own 1 task 0 holders 0",
-		"region 2 up 1 quota 2 used 40 runs 5+1,3+1 cells 0,0,0,0,0,0,0,1 own 1 task 0 holders 0",
-		"region 3 up 0 quota 0 used 0 runs - cells 0,0,0,0,0,0,0,0 own 3 task 0 holders 3",
+		"region 1 up 0 quota 9 used 0 runs - cells 0,0,0,0,0,0,0,0 own 1 0 0",
+		"region 2 up 1 quota 2 used 40 runs 5+1,3+1 cells 0,0,0,0,0,0,0,1 own 1 0 0",
+		"region 3 up 0 quota 0 used 0 runs - cells 0,0,0,0,0,0,0,0 own 3 0 3",
 		"token 1 region 2 by 0 to 1 mutable yes above 0", "token 2 region 1 by 0 to 1 mutable no above 0", "token 3 region 2 by 1 to 0 mutable no above 1",
 		"next tokens 4,5,6,7,8,9,10,11,12,13,14,15,16", "life 1 alive yes born yes",
 		"box 1 closed yes from 0 word 9223372036854775808 region 3 share yes from 0 word 6 region 0 share no from 1 word 8 region 0 share no")
 	if !strings.Contains(d, "next table 260,5,6,") || strings.Index(d, "region 3") > strings.Index(d, "next table") || strings.Index(d, "token 3") > strings.Index(d, "next tokens") {
 		t.Error(d)
 	}
+}
+
+// P30.1: behind the word own stand three numbers, and nothing else: the kind's, the task, the holders.
+func TestOwn(t *testing.T) {
+	s := model.Begin()
+	for _, x := range []struct {
+		task int
+		c    model.Call
+	}{
+		{0, model.Call{Do: model.Spawn, A: 5}},
+		{5, model.Call{Do: model.New, A: 1}}, {5, model.Call{Do: model.New, R: 1}},
+		{0, model.Call{Do: model.New}}, {0, model.Call{Do: model.Send, R: 3, A: 5}},
+		{0, model.Call{Do: model.New}}, {0, model.Call{Do: model.Freeze, R: 4}}, {0, model.Call{Do: model.Share, R: 4, A: 5}},
+	} {
+		next, r, _ := s.Do(x.task, x.c, runs.Run{})
+		if r.E != api.OK {
+			t.Fatal(x, r)
+		}
+		s = next
+	}
+	const cells = " used 0 runs - cells 0,0,0,0,0,0,0,0 "
+	lines(t, State(s), "region 1 up 0 quota 1"+cells+"own 1 5 0", "region 2 up 1 quota 0"+cells+"own 1 5 0", "region 3 up 0 quota 0"+cells+"own 2 0 0", "region 4 up 0 quota 0"+cells+"own 3 0 33")
 }
 
 // P30.2
