@@ -51,7 +51,7 @@ func TestParse(t *testing.T) {
 		{"halt r0 r0 r0 0", []code.Instr{{}}}, {"halt r1 r2 r3 0\n", []code.Instr{{A: 1, B: 2, C: 3}}},
 		{"\t a\t:halt  r1\tr2 r3 65535;c", []code.Instr{{A: 1, B: 2, C: 3, N: 65535}}},
 		{"jump r0 r0 r0 end\nend: halt r0 r0 r0 1", []code.Instr{{Op: code.Jump, N: 1}, {N: 1}}},
-		{"x:\n\ny: ;\nif r7 r0 r0 y\nif r7 r0 r0 0\njump r0 r0 r0 x", []code.Instr{{Op: code.If, A: 7}, {Op: code.If, A: 7}, {Op: code.Jump}}},
+		{"x:\n\ny: ;\nif r7 r0 r0 y\nif r7 r0 r0 x\njump r0 r0 r0 x", []code.Instr{{Op: code.If, A: 7}, {Op: code.If, A: 7}, {Op: code.Jump}}},
 		{"halt:set r0 r0 r0 1\njump r0 r0 r0 halt", []code.Instr{{Op: code.Set, N: 1}, {Op: code.Jump}}},
 		{"z: halt r7 r0 r0 0", []code.Instr{{A: 7}}}, {"az09: jump r0 r0 r0 az09", []code.Instr{{Op: code.Jump}}},
 		{"abcdefg8: new r0 r0 r0 0", []code.Instr{{Op: 17}}},
@@ -79,7 +79,9 @@ func TestWrong(t *testing.T) {
 		{"a:\n\na:\n" + ok, 3, api.ErrForm}, {"a: b: " + ok, 1, api.ErrForm}, {"halt r0 r0 r0 0\r\n", 1, api.ErrForm}, {"\v", 1, api.ErrForm}, {"\u00a0", 1, api.ErrForm},
 		{"jump r0 r0 r0 a\n" + ok, 1, api.ErrForm}, {ok + "jump r0 r0 r0 a\na:", 2, api.ErrForm}, {"jump r0 r0 r0 a\nhalt", 2, api.ErrForm},
 		{"jump r0 r0 r0 1", 1, api.ErrForm}, {"a: jump r0 r0 r0 a\njump r0 r0 r0 9\njump r0 r0 r0 b", 2, api.ErrForm}, {"jump r0 r0 r0 abcdefghi", 1, api.ErrForm},
-		{strings.Repeat(ok, 65), 0, api.ErrLimit}, {strings.Repeat(ok, 70) + "jump r0 r0 r0 a", 71, api.ErrForm}, {strings.Repeat(ok, 70) + "jump r0 r0 r0 69", 0, api.ErrLimit}, {strings.Repeat(ok, 70) + "x", 71, api.ErrForm},
+		{"jump r0 r0 r0 0", 1, api.ErrForm}, {ok + "if r1 r0 r0 0", 2, api.ErrForm}, {"a: jump r0 r0 r0 0\n", 1, api.ErrForm}, {ok + "if r0 r0 r0 65535\n", 2, api.ErrForm},
+		{"jump r0 r0 r0 b\njump r0 r0 r0 0", 2, api.ErrForm}, {"jump r0 r0 r0 65536", 1, api.ErrForm}, {"jump r0 r0 r0 A", 1, api.ErrForm}, {"l0: if r0 r0 r0 l0:", 1, api.ErrForm},
+		{strings.Repeat(ok, 65), 0, api.ErrLimit}, {strings.Repeat(ok, 70) + "jump r0 r0 r0 a", 71, api.ErrForm}, {strings.Repeat(ok, 70) + "jump r0 r0 r0 69", 71, api.ErrForm}, {strings.Repeat(ok, 70) + "a: jump r0 r0 r0 a", 0, api.ErrLimit}, {strings.Repeat(ok, 70) + "x", 71, api.ErrForm},
 	} {
 		l, n, e := Parse(x.s)
 		if l != nil || n != x.n || e != x.e {
