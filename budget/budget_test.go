@@ -214,6 +214,73 @@ func TestDeath(t *testing.T) {
 	}
 }
 
+// P43.3: what has more than its limit, since that was set lower, may go on, as long as it gets no pages.
+func TestWithoutPages(t *testing.T) {
+	for _, d := range []uint8{model.Recv, model.TryRecv} {
+		w := open(t, 4)
+		w.tree(0, 1)
+		bare, full := w.tree(0), w.tree(1, 1)
+		w.want(0, model.Call{Do: model.Send, R: bare, V: 7}, api.OK)
+		w.want(1, model.Call{Do: model.Send, R: full}, api.OK)
+		w.b[0].Set(0, 0)
+		if r := w.want(0, model.Call{Do: d}, api.OK); r.V != 7 || r.W != bare {
+			t.Error(r)
+		}
+		w.want(0, model.Call{Do: d}, api.ErrFull)
+		w.b[0].Set(0, 1)
+		w.want(0, model.Call{Do: d}, api.ErrFull)
+		w.b[0].Set(0, 2)
+		w.want(0, model.Call{Do: d}, api.OK)
+	}
+}
+
+// P43.3: the same, of what bounces.
+func TestDeathWithoutPages(t *testing.T) {
+	for _, c := range []struct {
+		task int
+		c    model.Call
+	}{{0, model.Call{Do: model.Kill, A: 1}}, {1, model.Call{Do: model.Exit}}, {1, model.Call{Do: model.Kill, A: 1}}} {
+		w := open(t, 8)
+		w.tree(0, 64)
+		bare, none := w.tree(0), w.tree(2)
+		w.tree(2, 1)
+		w.tree(1, 1)
+		w.want(0, model.Call{Do: model.Send, R: bare, A: 1}, api.OK)
+		w.want(2, model.Call{Do: model.Send, R: none, A: 1}, api.OK)
+		w.b[0].Set(0, 0)
+		w.b[0].Set(2, 0)
+		w.want(c.task, c.c, api.OK)
+		if s := w.b[0].Hand().Core().S; Has(s, 0) != 2 || Has(s, 2) != 1 || s.Alive[1] || !s.T.Good(bare) || !s.T.Good(none) {
+			t.Error(c, Has(s, 0), Has(s, 2))
+		}
+	}
+	w := open(t, 8)
+	w.tree(0, 64)
+	bare, full := w.tree(0), w.tree(0, 1)
+	w.want(0, model.Call{Do: model.Send, R: full, A: 1}, api.OK)
+	w.want(0, model.Call{Do: model.Send, R: bare, A: 1}, api.OK)
+	w.b[0].Set(0, 2)
+	w.want(1, model.Call{Do: model.Exit}, api.ErrFull)
+	w.b[0].Set(0, 3)
+	w.want(1, model.Call{Do: model.Exit}, api.OK)
+}
+
+// P43.3: the same, of a tree that is grafted.
+func TestGraftWithoutPages(t *testing.T) {
+	w := open(t, 8)
+	h := w.tree(0, 64)
+	bare, full := w.tree(1), w.tree(1, 1)
+	w.want(0, model.Call{Do: model.Lend, R: h, A: 1, B: 1}, api.OK)
+	w.b[0].Set(0, 1)
+	w.b[0].Set(1, 0)
+	w.want(1, model.Call{Do: model.Graft, R: full, S: h}, api.ErrFull)
+	w.want(1, model.Call{Do: model.Graft, R: bare, S: h}, api.OK)
+	w.b[0].Set(0, 2)
+	w.want(1, model.Call{Do: model.Graft, R: full, S: h}, api.ErrFull)
+	w.b[0].Set(0, 3)
+	w.want(1, model.Call{Do: model.Graft, R: full, S: h}, api.OK)
+}
+
 // P43.4, P43.5
 func TestWhatever(t *testing.T) {
 	refused := 0
